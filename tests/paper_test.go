@@ -562,7 +562,7 @@ func otherPapers(p paper) []paper {
 	return all
 }
 
-// Nobody can widen it: a Paper with anything but what was sealed is not Genuine.
+// With its Tag a Paper that has anything but what was sealed is not Genuine.
 func TestGenuineIsOfAllOfIt(t *testing.T) {
 	for _, p := range rightPapers(60, 106) {
 		checkGenuine(t, 7, p, true)
