@@ -64,8 +64,12 @@ func isInCell(c cell, s spot) bool {
 	return s.X/side == c.X && s.Y/side == c.Y
 }
 
-// isAllowed asks each Clause of a right Paper by the document's words.
+// isAllowed asks each Clause of a right Paper by the document's words; at what
+// is no time nothing is allowed.
 func isAllowed(p paper, s spot, write bool, now int64) bool {
+	if now < 0 || now > greatestTime {
+		return false
+	}
 	for _, c := range p.Clauses {
 		reached := slices.ContainsFunc(listOf(c, write), func(one cell) bool { return isInCell(one, s) })
 		if c.Until <= now || !reached {
@@ -646,13 +650,30 @@ func TestAllowsNamedEdges(t *testing.T) {
 		// Each Clause allows it by itself; it need not be by one Cell.
 		{sealed(clause{Read: cellsOf(1), Until: 9}, clause{Read: cellsOf(1)[3:], Until: 9}), spot{X: 128, Y: 128}, false, 8, true},
 		{sealed(clause{Read: cellsOf(1)[:1], Until: 9}, clause{Read: cellsOf(1)[3:], Until: 9}), spot{X: 128, Y: 128}, false, 8, false},
-		// Nothing is wanted of now but that Until is above it.
-		{sealed(clause{Read: grid}), spot{}, false, -1, true},
-		{sealed(late), spot{}, false, math.MinInt64, true},
+		// What is below 0 or above the greatest time is no time.
+		{sealed(clause{Read: grid}), spot{}, false, -1, false},
+		{sealed(clause{Read: grid, Until: 1}), spot{}, false, -1, false},
+		{sealed(late), spot{}, false, -1, false},
+		{sealed(late), spot{}, true, -1, false},
+		{sealed(late), spot{}, false, greatestTime + 1, false},
+		{sealed(late), spot{}, false, math.MinInt64, false},
 		{sealed(late), spot{}, false, math.MaxInt64, false},
 	} {
 		if got := impl.Allows(c.p, c.s, c.write, c.now); got != c.want {
 			t.Errorf("Allows(%v, %v, %v, %d) = %v", c.p, c.s, c.write, c.now, got)
+		}
+	}
+}
+
+// Whatever it allows at a time, at what is no time it allows nothing.
+func TestAllowsAtNoTime(t *testing.T) {
+	for _, p := range append(rightPapers(60, 122), paperOf(7, 3, wholeClause())) {
+		for _, s := range spotsBy(p) {
+			for _, now := range wrongTimes() {
+				if impl.Allows(p, s, false, now) || impl.Allows(p, s, true, now) {
+					t.Fatalf("%v allows %v at %d, which is no time", p, s, now)
+				}
+			}
 		}
 	}
 }
@@ -704,7 +725,7 @@ func TestRegionIsCommonToAll(t *testing.T) {
 }
 
 // Of a Paper that lasts: Spot by Spot for the first ones, by the edges of their
-// Cells for all others.
+// Cells for all others. (One whose Until is 0 lasts at no time.)
 func TestWhatItAllowsIsItsRegion(t *testing.T) {
 	for i, p := range rightPapers(150, 112) {
 		list := spotsBy(p)
@@ -715,7 +736,7 @@ func TestWhatItAllowsIsItsRegion(t *testing.T) {
 		for _, write := range []bool{false, true} {
 			region := setOf(impl.Region(p, write))
 			for _, s := range list {
-				if got := impl.Allows(p, s, write, now); got != (region[s.X][s.Y] > 0) {
+				if got := impl.Allows(p, s, write, now); got != (region[s.X][s.Y] > 0 && now >= 0) {
 					t.Fatalf("Allows(%v, %v, %v, %d) = %v, but its Region is %v", p, s, write, now, got, impl.Region(p, write))
 				}
 				if impl.Allows(p, s, write, now+1) {
@@ -811,7 +832,7 @@ func TestWrongPapers(t *testing.T) {
 			checkGenuine(t, key, p, false)
 		}
 		for _, write := range []bool{false, true} {
-			for _, now := range []int64{math.MinInt64, 0, 49} {
+			for _, now := range []int64{-1, 0, 49} {
 				if impl.Allows(p, spot{}, write, now) || impl.Allows(p, spot{X: 255, Y: 255}, write, now) {
 					t.Fatalf("%v allows something at %d", p, now)
 				}
