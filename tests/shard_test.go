@@ -48,8 +48,8 @@ func copiedShard(s shard) shard {
 
 // shown is a Shard with as much of its Log as can be read in a message.
 func shown(s shard) string {
-	return fmt.Sprintf("{%d Records %.300v, %d Readies %.300v, %d Over %.100v, %d bytes of Log %.200q, Sure %d}",
-		len(s.Records), s.Records, len(s.Readies), s.Readies, len(s.Over), s.Over, len(s.Log), s.Log, s.Sure)
+	return fmt.Sprintf("{%d Records %s, %d Readies %s, %d Over %s, %d bytes of Log %.200q, Sure %d}",
+		len(s.Records), brief(s.Records, 300), len(s.Readies), brief(s.Readies, 300), len(s.Over), brief(s.Over, 100), len(s.Log), s.Log, s.Sure)
 }
 
 func isOverNumber(n int64) bool {
